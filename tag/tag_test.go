@@ -7,19 +7,14 @@ import (
 	"testing"
 
 	"ebbtide/api"
+	"ebbtide/lists"
 )
 
 // good is what one tag's text must look like, told by other means: a pattern of bytes.
 var good = regexp.MustCompile(`\A[a-z][a-z0-9_]{0,11}=[a-z0-9_.-]{1,12}\z`)
 
 // tags makes tags of names and values, one behind the other.
-func tags(words ...string) []api.Tag {
-	l := []api.Tag{}
-	for i := 0; i < len(words); i += 2 {
-		l = append(l, api.Tag{Name: words[i], Value: words[i+1]})
-	}
-	return l
-}
+var tags = lists.Tags
 
 // wantCanon is what Canon must answer, told by other means: the least name is taken out again and again.
 func wantCanon(l []api.Tag) ([]api.Tag, api.Errno) {
@@ -297,25 +292,10 @@ func TestParseErrors(t *testing.T) {
 	checkParse(t, strings.Repeat("a=1,", 5000)+"a", nil, api.ErrForm)
 }
 
-// eachList hands to call all lists of at most n of the tags in some.
-func eachList(some []api.Tag, n int, call func(l []api.Tag)) {
-	lists := [][]api.Tag{nil}
-	for range n + 1 {
-		longer := [][]api.Tag{}
-		for _, l := range lists {
-			call(l)
-			for _, one := range some {
-				longer = append(longer, append(slices.Clone(l), one))
-			}
-		}
-		lists = longer
-	}
-}
-
 // P3.1, P3.2: all lists of at most 5 of some tags, right and wrong, and their texts.
 func TestAllShortLists(t *testing.T) {
 	some := tags("a", "1", "a", "2", "b", "1", "ab", "a", "c", "-", "d", "d", "A", "1", "b", "")
-	eachList(some, 5, func(l []api.Tag) {
+	lists.EachShort(some, 5, func(l []api.Tag) {
 		want, e := wantCanon(l)
 		checkTags(t, l, want, e)
 		checkParse(t, Text(l), want, e)
@@ -324,33 +304,11 @@ func TestAllShortLists(t *testing.T) {
 
 // P3.1, P3.2: all short texts of bytes that matter.
 func TestAllShortTexts(t *testing.T) {
-	const some = "ab1A=,"
-	texts := []string{""}
-	for range 8 {
-		longer := []string{}
-		for _, s := range texts {
-			want, e := wantParse(s)
-			checkParse(t, s, want, e)
-			for i := range len(some) {
-				longer = append(longer, s+some[i:i+1])
-			}
-		}
-		texts = longer
-	}
-}
-
-// eachOrder hands to call the tags of l in every order.
-func eachOrder(l []api.Tag, call func(l []api.Tag)) {
-	var place func(head, rest []api.Tag)
-	place = func(head, rest []api.Tag) {
-		if len(rest) == 0 {
-			call(head)
-		}
-		for i := range rest {
-			place(append(slices.Clone(head), rest[i]), slices.Concat(rest[:i], rest[i+1:]))
-		}
-	}
-	place(nil, l)
+	lists.EachShort(strings.Split("ab1A=,", ""), 7, func(l []string) {
+		s := strings.Join(l, "")
+		want, e := wantParse(s)
+		checkParse(t, s, want, e)
+	})
 }
 
 // P3.2: tags in order come back from their text; in whatever order they come, they are the same in order, or the same is wrong.
@@ -366,7 +324,7 @@ func TestEveryOrder(t *testing.T) {
 	}
 	for _, want := range right {
 		checkParse(t, Text(want), want, api.OK)
-		eachOrder(want, func(l []api.Tag) {
+		lists.EachOrder(want, func(l []api.Tag) {
 			checkTags(t, l, want, api.OK)
 			checkParse(t, Text(l), want, api.OK)
 		})
@@ -379,7 +337,7 @@ func TestEveryOrder(t *testing.T) {
 		{tags("a", "1", "b", "1", "c", "1", "b", "2", "d", "1"), api.ErrMany},
 		{tags("a", "1", "b", "1", "c", "1", "b", "2", "D", "1"), api.ErrForm},
 	} {
-		eachOrder(x.l, func(l []api.Tag) {
+		lists.EachOrder(x.l, func(l []api.Tag) {
 			checkTags(t, l, nil, x.e)
 			checkParse(t, Text(l), nil, x.e)
 		})
